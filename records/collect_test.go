@@ -30,3 +30,22 @@ func TestCollect(t *testing.T) {
 		t.Error(list, rejects)
 	}
 }
+
+// Records that a check accepts are divided from the others, which are identified; the check sees each record once, in order.
+func TestDivide(t *testing.T) {
+	list := []api.Record{{Source: 1, Serial: 4, Units: 5}, {Source: -2, Serial: 3}, {}, {Source: 1, Serial: 4, Units: 6}, {Source: 1, Serial: 9, Units: 5}}
+	var checked []api.Record
+	passed, rejects := Divide(list, func(r api.Record) api.Errno {
+		checked = append(checked, r)
+		return api.Errno(r.Units)
+	})
+	if !slices.Equal(checked, list) {
+		t.Error(checked)
+	}
+	if !slices.Equal(passed, []api.Record{list[1], list[2]}) {
+		t.Error(passed)
+	}
+	if !slices.Equal(rejects, []api.Reject{{Source: 1, Serial: 4, Err: 5}, {Source: 1, Serial: 4, Index: 3, Err: 6}, {Source: 1, Serial: 9, Index: 4, Err: 5}}) {
+		t.Error(rejects)
+	}
+}

@@ -1,4 +1,4 @@
-// Package records says which usage records are valid, as shared/doc/09-textual.md and 13-validate.md define it, and collects those that a format decodes. Several layers need this.
+// Package records says which usage records are valid, as shared/doc/09-textual.md and 13-validate.md define it, collects those that a format decodes, and divides those that a check accepts from the others. Several layers need this.
 package records
 
 import (
