@@ -259,16 +259,6 @@ func same(a, b api.Customers) bool {
 	return slices.EqualFunc(a.Accounts, b.Accounts, sameAccount) && slices.EqualFunc(a.Subs, b.Subs, sameSub)
 }
 
-// moments returns instants of interest for a list, and integers that are none.
-func moments(list []api.Event) []int {
-	times := []int{math.MinInt, -1, 0, api.Forever - 1, api.Forever, math.MaxInt}
-	for _, e := range list {
-		times = append(times, e.At-1, e.At, e.At+1)
-	}
-	slices.Sort(times)
-	return slices.Compact(times)
-}
-
 // P17.2, P17.3 and P17.5, with R5.
 func TestState(t *testing.T) {
 	rnd := rand.New(rand.NewSource(170))
@@ -276,7 +266,7 @@ func TestState(t *testing.T) {
 	for range 400 {
 		list := samples.Events(rnd.Intn, 150, valid)
 		given := samples.Spare(list, mark)
-		for _, at := range moments(list) {
+		for _, at := range samples.Moments(list) {
 			h := history(list).at(at)
 			want := h.customers()
 			got := State(given, at)

@@ -22,17 +22,6 @@ func valid(list []api.Event) bool {
 	return err == api.OK
 }
 
-// someEvents returns a valid list, which now and then has its last events at the last instant.
-func someEvents(rnd *rand.Rand) []api.Event {
-	list := samples.Events(rnd.Intn, rnd.Intn(250), valid)
-	if rnd.Intn(4) == 0 {
-		for i := len(list) - rnd.Intn(len(list)+1); i < len(list); i++ {
-			list[i].At = api.Forever - 1
-		}
-	}
-	return list
-}
-
 // owner returns the subscription that has a number in Numbers at t, or 0: the definition.
 func owner(list []api.Event, number string, t int) int {
 	for _, s := range customer.State(list, t).Subs {
@@ -43,20 +32,10 @@ func owner(list []api.Event, number string, t int) int {
 	return 0
 }
 
-// limits returns the instants at which owners can change, in order, beginning with 0.
-func limits(list []api.Event) []int {
-	times := []int{0}
-	for _, e := range list {
-		times = append(times, e.At)
-	}
-	slices.Sort(times)
-	return slices.Compact(times)
-}
-
 // modelSpells returns the maximal periods at all of whose instants the number belongs to the same subscription.
 func modelSpells(list []api.Event, number string) []api.Owned {
 	var spells []api.Owned
-	times := limits(list)
+	times := samples.Limits(list)
 	for i, from := range times {
 		to := api.Forever
 		if i+1 < len(times) {
@@ -74,16 +53,6 @@ func modelSpells(list []api.Event, number string) []api.Owned {
 	return spells
 }
 
-// moments returns the limits with their neighbours, and integers that are no instants.
-func moments(list []api.Event) []int {
-	times := []int{math.MinInt, -1, api.Forever - 2, api.Forever - 1, api.Forever, math.MaxInt}
-	for _, n := range limits(list) {
-		times = append(times, n-1, n, n+1)
-	}
-	slices.Sort(times)
-	return slices.Compact(times)
-}
-
 // mark fills the spare capacity of arguments.
 var mark = api.Event{At: -7, Number: "spare"}
 
@@ -92,9 +61,9 @@ func TestOwner(t *testing.T) {
 	rnd := rand.New(rand.NewSource(18))
 	owned, free := 0, 0
 	for range 300 {
-		list := someEvents(rnd)
+		list := samples.SomeEvents(rnd.Intn, valid)
 		given := samples.Spare(list, mark)
-		for _, at := range moments(list) {
+		for _, at := range samples.Moments(list) {
 			for _, number := range texts() {
 				sub, found := Owner(given, number, at)
 				if want := owner(list, number, at); sub != want || found != (want != 0) {
@@ -127,7 +96,7 @@ func TestSpells(t *testing.T) {
 	long := map[int]int{} // how many numbers have so many spells
 	endless, touching := 0, 0
 	for range 2000 {
-		list := someEvents(rnd)
+		list := samples.SomeEvents(rnd.Intn, valid)
 		given := samples.Spare(list, mark)
 		for _, number := range texts() {
 			spells, want := Spells(given, number), modelSpells(list, number)
@@ -166,9 +135,9 @@ func TestNumbers(t *testing.T) {
 	rnd := rand.New(rand.NewSource(181))
 	several := 0
 	for range 300 {
-		list := someEvents(rnd)
+		list := samples.SomeEvents(rnd.Intn, valid)
 		given := samples.Spare(list, mark)
-		for _, at := range moments(list) {
+		for _, at := range samples.Moments(list) {
 			subs := customer.State(list, at).Subs
 			for _, id := range []int{math.MinInt, -1, 0, 1, 2, 3, 4, 5, 6, 7, math.MaxInt} {
 				var want []string
@@ -201,9 +170,9 @@ func TestFree(t *testing.T) {
 	rnd := rand.New(rand.NewSource(182))
 	found := map[bool]int{}
 	for range 300 {
-		list := someEvents(rnd)
+		list := samples.SomeEvents(rnd.Intn, valid)
 		given := samples.Spare(list, mark)
-		times := moments(list)
+		times := samples.Moments(list)
 		number := texts()[rnd.Intn(3)]
 		for _, from := range times {
 			for _, to := range times {

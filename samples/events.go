@@ -61,3 +61,14 @@ func Events(choose func(n int) int, tries int, accepted func(list []api.Event) b
 	}
 	return list
 }
+
+// SomeEvents returns a list like those of Events, which now and then has its last events at the last instant.
+func SomeEvents(choose func(n int) int, accepted func(list []api.Event) bool) []api.Event {
+	list := Events(choose, choose(250), accepted)
+	if choose(4) == 0 {
+		for i := len(list) - choose(len(list)+1); i < len(list); i++ {
+			list[i].At = api.Forever - 1
+		}
+	}
+	return list
+}
