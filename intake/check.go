@@ -7,6 +7,7 @@ import (
 	"billing/batch"
 	"billing/correlate"
 	"billing/dedup"
+	"billing/records"
 	"billing/validate"
 )
 
@@ -28,16 +29,8 @@ func isOpen(list []api.Record) bool {
 
 // areSeen reports whether the serial numbers of open parts are seen, each of one part only.
 func areSeen(open []api.Record, seen []api.Range) bool {
-	type identity struct{ source, serial int }
-	found := map[identity]bool{}
-	for _, p := range open {
-		id := identity{p.Source, p.Serial}
-		if found[id] || !dedup.Has(seen, p.Source, p.Serial) {
-			return false
-		}
-		found[id] = true
-	}
-	return true
+	unseen := func(p api.Record) bool { return !dedup.Has(seen, p.Source, p.Serial) }
+	return !slices.ContainsFunc(open, unseen) && records.Distinct(open)
 }
 
 // inSequence reports whether headers are those of batches that can be taken one after the other.

@@ -1,4 +1,4 @@
-// Package records says which usage records are valid, as shared/doc/09-textual.md and 13-validate.md define it, collects those that a format decodes, and divides those that a check accepts from the others. Several layers need this.
+// Package records says which usage records are valid, as shared/doc/09-textual.md and 13-validate.md define it, whether they are distinct, collects those that a format decodes, and divides those that a check accepts from the others. Several layers need this.
 package records
 
 import (
@@ -32,6 +32,20 @@ func Check(r api.Record) api.Errno {
 		return api.ErrInvalid
 	}
 	return api.OK
+}
+
+// Distinct reports whether no two records have the same source and serial number.
+func Distinct(list []api.Record) bool {
+	type identity struct{ source, serial int }
+	found := map[identity]bool{}
+	for _, r := range list {
+		id := identity{r.Source, r.Serial}
+		if found[id] {
+			return false
+		}
+		found[id] = true
+	}
+	return true
 }
 
 // within reports whether n is from least to most.

@@ -186,3 +186,27 @@ func TestAgainstModel(t *testing.T) {
 		}
 	}
 }
+
+// Two records are the same one if they agree in the source and the serial number, whatever else they say.
+func TestDistinct(t *testing.T) {
+	rnd := rand.New(rand.NewSource(10))
+	found := map[bool]int{}
+	for range 5000 {
+		list := make([]api.Record, rnd.Intn(6))
+		want := true
+		for i := range list {
+			list[i] = samples.Record(rnd.Intn)
+			list[i].Source, list[i].Serial = rnd.Intn(3)-1, rnd.Intn(6)-1
+			for _, other := range list[:i] {
+				want = want && (other.Source != list[i].Source || other.Serial != list[i].Serial)
+			}
+		}
+		if Distinct(list) != want {
+			t.Fatalf("Distinct(%+v) = %v", list, !want)
+		}
+		found[want]++
+	}
+	if found[true] < 500 || found[false] < 500 || !Distinct(nil) {
+		t.Error(found)
+	}
+}
