@@ -4,6 +4,7 @@ import (
 	"billing/api"
 	"billing/digits"
 	"billing/names"
+	"billing/numbers"
 )
 
 // prepaid and postpaid are the names of the sorts of accounts.
@@ -38,24 +39,24 @@ var used = [api.Events]fields{
 
 // checkFields returns the error that an event has by itself, after one at the instant last.
 func checkFields(e api.Event, last int) api.Errno {
-	if !within(e.Kind, api.EventOpen, api.Events-1) {
+	if !numbers.Within(e.Kind, api.EventOpen, api.Events-1) {
 		return api.ErrKind
 	}
 	f := used[e.Kind]
 	switch {
-	case !within(e.At, 0, api.Forever-1):
+	case !numbers.Within(e.At, 0, api.Forever-1):
 		return api.ErrTime
 	case e.At < last:
 		return api.ErrOrder
 	case f.unused(e) != api.Event{At: e.At, Kind: e.Kind}:
 		return api.ErrInvalid
-	case f.account && !within(e.Account, 1, api.MaxAccount) || f.sub && !within(e.Sub, 1, api.MaxAccount):
+	case f.account && !numbers.Within(e.Account, 1, api.MaxAccount) || f.sub && !numbers.Within(e.Sub, 1, api.MaxAccount):
 		return api.ErrRange
 	case f.name && !isName(e):
 		return api.ErrInvalid
 	case f.number && !digits.Valid(e.Number):
 		return api.ErrNumber
-	case f.value && !within(e.Value, f.least, f.most):
+	case f.value && !numbers.Within(e.Value, f.least, f.most):
 		return api.ErrRange
 	}
 	return api.OK
@@ -87,9 +88,4 @@ func isName(e api.Event) bool {
 		return e.Name == prepaid || e.Name == postpaid
 	}
 	return names.Valid(e.Name)
-}
-
-// within reports whether n is from least to most.
-func within(n, least, most int) bool {
-	return least <= n && n <= most
 }

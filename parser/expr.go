@@ -1,6 +1,9 @@
 package parser
 
-import "billing/api"
+import (
+	"billing/api"
+	"billing/expressions"
+)
 
 // expr takes an expression.
 func (r *reader) expr() api.Expr {
@@ -105,9 +108,5 @@ func operation(op int, operands ...api.Expr) api.Expr {
 
 // isAttribute reports whether a token is an attribute.
 func isAttribute(t api.Token) bool {
-	switch t.Text {
-	case "kind", "units", "weekday", "minute", "total", "spent", "zone", "band", "family":
-		return t.Kind == api.TokenWord
-	}
-	return isPlain(t)
+	return t.Kind == api.TokenWord && expressions.Sort(t.Text) != 0 || isPlain(t)
 }

@@ -9,6 +9,7 @@ import (
 
 	"billing/api"
 	"billing/lexer"
+	"billing/samples"
 )
 
 // checkError compares the error of a parser with the model, and its result beside an error with nothing; it returns the error.
@@ -244,22 +245,11 @@ func TestExprErrors(t *testing.T) {
 func TestShortExprs(t *testing.T) {
 	tokens := []string{"1", "01", `"a"`, "units", "upto", "a", "not", "and", "or", "=", ">", "+", "-", "*", "(", ")", ";"}
 	valid := 0
-	for length := range 5 {
-		count := 1
-		for range length {
-			count *= len(tokens)
+	samples.EachText(tokens, 4, func(text string) {
+		if checkExpr(t, text) == api.OK {
+			valid++
 		}
-		for n := range count {
-			var words []string
-			for range length {
-				words = append(words, tokens[n%len(tokens)])
-				n /= len(tokens)
-			}
-			if checkExpr(t, strings.Join(words, " ")) == api.OK {
-				valid++
-			}
-		}
-	}
+	})
 	if valid < 200 {
 		t.Error("only", valid)
 	}
@@ -299,7 +289,7 @@ func TestChangedTokens(t *testing.T) {
 func TestTariffsRecovered(t *testing.T) {
 	rnd := rand.New(rand.NewSource(241))
 	for range 5000 {
-		x := someTariff(rnd)
+		x := samples.Tariff(rnd.Intn)
 		if !printableTariff(x) {
 			t.Fatalf("%+v is not printable", x)
 		}
@@ -316,7 +306,7 @@ func TestTariffsRecovered(t *testing.T) {
 func TestExprsRecovered(t *testing.T) {
 	rnd := rand.New(rand.NewSource(242))
 	for range 20000 {
-		x := someExpr(rnd, 1+rnd.Intn(6))
+		x := samples.Expr(rnd.Intn, 1+rnd.Intn(6))
 		w := writer{}
 		w.expr(x, 1)
 		sameExpr(t, w.plain(), x)
@@ -345,10 +335,10 @@ func TestAgainstModel(t *testing.T) {
 	}
 	for range 5000 {
 		w := writer{rnd: rnd}
-		w.tariff(someTariff(rnd))
+		w.tariff(samples.Tariff(rnd.Intn))
 		found[checkTariff(t, change(w.tokens))]++
 		w = writer{rnd: rnd}
-		w.expr(someExpr(rnd, 1+rnd.Intn(5)), 1)
+		w.expr(samples.Expr(rnd.Intn, 1+rnd.Intn(5)), 1)
 		found[checkExpr(t, change(w.tokens))]++
 	}
 	if found[api.OK] < 300 || found[api.ErrTime] < 5 || found[api.ErrSyntax] < 3000 {

@@ -8,7 +8,6 @@ import (
 	"time"
 
 	"billing/api"
-	"billing/lexer"
 )
 
 // writer writes tariffs and expressions as tokens. If it has a random source, it varies what may be written in several ways.
@@ -223,85 +222,4 @@ func touches(s, token string) bool {
 		return first != '-' && isWord(rune(first))
 	}
 	return strings.IndexByte("<>=", last) >= 0 && strings.IndexByte("<>=", first) >= 0
-}
-
-// someName returns a plain word.
-func someName(rnd *rand.Rand) string {
-	const letters = "abcdefghijklmnopqrstuvwxyz0123456789-"
-	for {
-		b := []byte{letters[rnd.Intn(26)]}
-		for range rnd.Intn(rnd.Intn(24) + 1) {
-			b = append(b, letters[rnd.Intn(len(letters))])
-		}
-		if !lexer.Keyword(string(b)) {
-			return string(b)
-		}
-	}
-}
-
-// someNumber returns a number of up to sixteen digits.
-func someNumber(rnd *rand.Rand) int {
-	most := 1
-	for range rnd.Intn(17) {
-		most *= 10
-	}
-	return []int{0, most - 1, rnd.Intn(most)}[rnd.Intn(3)]
-}
-
-// someExpr returns an expression with at most so many levels.
-func someExpr(rnd *rand.Rand, levels int) api.Expr {
-	if levels == 1 || rnd.Intn(6) == 0 {
-		switch rnd.Intn(4) {
-		case 0:
-			return api.Expr{Op: api.OpNumber, Num: someNumber(rnd)}
-		case 1:
-			b := make([]byte, rnd.Intn(rnd.Intn(201)+1))
-			for i := range b {
-				b[i] = byte(' ' + rnd.Intn(95))
-			}
-			return api.Expr{Op: api.OpText, Text: strings.ReplaceAll(string(b), `"`, "'")}
-		case 2:
-			return api.Expr{Op: api.OpName, Text: strings.Fields("kind units weekday minute total spent zone band family")[rnd.Intn(9)]}
-		}
-		return api.Expr{Op: api.OpName, Text: someName(rnd)}
-	}
-	e := api.Expr{Op: api.OpNot + rnd.Intn(api.Ops-api.OpNot)}
-	e.Args = append(e.Args, someExpr(rnd, levels-1))
-	if e.Op != api.OpNot {
-		e.Args = append(e.Args, someExpr(rnd, levels-1))
-	}
-	return e
-}
-
-// someTariff returns a tariff that can be written.
-func someTariff(rnd *rand.Rand) api.Tariff {
-	t := api.Tariff{Name: someName(rnd), From: rnd.Intn(api.MaxDays) * api.Day, Split: rnd.Intn(2) == 0}
-	if rnd.Intn(2) == 0 {
-		t.From = rnd.Intn(api.Forever)
-	}
-	for range rnd.Intn(4) {
-		z := api.Zone{Name: someName(rnd)}
-		for range 1 + rnd.Intn(4) {
-			z.Prefixes = append(z.Prefixes, strconv.FormatInt(rnd.Int63(), 10)[:1+rnd.Intn(10)], "00"+strconv.Itoa(rnd.Intn(1000)))
-		}
-		t.Zones = append(t.Zones, z)
-	}
-	for range rnd.Intn(4) {
-		b := api.Band{Name: someName(rnd)}
-		for range rnd.Intn(4) {
-			b.Slots = append(b.Slots, api.Slot{Days: 1 + rnd.Intn(255), From: rnd.Intn(1440), To: []int{1440, 0, rnd.Intn(1441)}[rnd.Intn(3)]})
-		}
-		t.Bands = append(t.Bands, b)
-	}
-	for range rnd.Intn(4) {
-		r := api.Rate{Kind: 1 + rnd.Intn(4), Zone: []string{"", someName(rnd)}[rnd.Intn(2)], Band: []string{"", someName(rnd)}[rnd.Intn(2)], Setup: someNumber(rnd)}
-		for range 1 + rnd.Intn(3) {
-			r.Steps = append(r.Steps, api.Step{Upto: someNumber(rnd), Quantum: someNumber(rnd), Price: someNumber(rnd)})
-		}
-		t.Rates = append(t.Rates, r)
-	}
-	for range rnd.Intn(3) {
-		t.Discounts = append(t.Discounts, api.Discount{Name: someName(rnd), When: someExpr(rnd, 1+rnd.Intn(4)), Points: someNumber(rnd)})
-	}
-	return t
 }

@@ -6,6 +6,7 @@ import (
 	"billing/amount"
 	"billing/api"
 	"billing/names"
+	"billing/numbers"
 )
 
 // maxPriority is the greatest Priority of a bundle.
@@ -37,7 +38,7 @@ func checkProduct(p api.Product) api.Errno {
 	switch {
 	case !names.Valid(p.Name):
 		return api.ErrInvalid
-	case !within(p.From, 0, api.Forever-1):
+	case !numbers.Within(p.From, 0, api.Forever-1):
 		return api.ErrTime
 	case p.Fee < 0 || !amount.Valid(p.Fee):
 		return api.ErrRange
@@ -56,13 +57,13 @@ func checkProduct(p api.Product) api.Errno {
 
 // checkBundle returns the error of a bundle.
 func checkBundle(b api.Bundle) api.Errno {
-	if !within(b.Kind, api.KindVoice, api.Kinds-1) {
+	if !numbers.Within(b.Kind, api.KindVoice, api.Kinds-1) {
 		return api.ErrKind
 	}
 	if err := checkZones(b.Zones); err != api.OK {
 		return err
 	}
-	if !within(b.Units, 1, api.MaxUnits) || !within(b.Rollover, 0, api.MaxUnits) || !within(b.Priority, 0, maxPriority) {
+	if !numbers.Within(b.Units, 1, api.MaxUnits) || !numbers.Within(b.Rollover, 0, api.MaxUnits) || !numbers.Within(b.Priority, 0, maxPriority) {
 		return api.ErrRange
 	}
 	return api.OK
@@ -84,9 +85,4 @@ func checkZones(zones []string) api.Errno {
 		}
 	}
 	return api.OK
-}
-
-// within reports whether n is from least to most.
-func within(n, least, most int) bool {
-	return least <= n && n <= most
 }

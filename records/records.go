@@ -4,29 +4,30 @@ package records
 import (
 	"billing/api"
 	"billing/digits"
+	"billing/numbers"
 )
 
 // Check returns the error of a record, and OK if it is valid. The cases have the order of the definition, so each one may rely on those above it.
 func Check(r api.Record) api.Errno {
 	voice := r.Kind == api.KindVoice
 	switch {
-	case !within(r.Source, 1, api.MaxSource) || !within(r.Serial, 1, api.MaxSerial):
+	case !numbers.Within(r.Source, 1, api.MaxSource) || !numbers.Within(r.Serial, 1, api.MaxSerial):
 		return api.ErrRange
-	case !within(r.Kind, api.KindVoice, api.Kinds-1):
+	case !numbers.Within(r.Kind, api.KindVoice, api.Kinds-1):
 		return api.ErrKind
 	case !digits.Valid(r.A) || !isTarget(r.B, r.Kind):
 		return api.ErrNumber
-	case !within(r.Start, 0, api.Forever-1):
+	case !numbers.Within(r.Start, 0, api.Forever-1):
 		return api.ErrTime
-	case !within(r.Units, 0, api.MaxUnits) || voice && r.Units > api.MaxCall:
+	case !numbers.Within(r.Units, 0, api.MaxUnits) || voice && r.Units > api.MaxCall:
 		return api.ErrRange
 	case voice && r.Start+r.Units > api.Forever:
 		return api.ErrTime
-	case !within(r.Call, 0, api.MaxSerial) || !within(r.Part, 0, api.MaxParts):
+	case !numbers.Within(r.Call, 0, api.MaxSerial) || !numbers.Within(r.Part, 0, api.MaxParts):
 		return api.ErrRange
 	case (r.Part == 0) != (r.Call == 0) || r.Last && r.Part == 0:
 		return api.ErrInvalid
-	case !within(r.Trunk, 0, api.MaxTrunk):
+	case !numbers.Within(r.Trunk, 0, api.MaxTrunk):
 		return api.ErrRange
 	case r.Inbound && r.Trunk == 0:
 		return api.ErrInvalid
@@ -46,11 +47,6 @@ func Distinct(list []api.Record) bool {
 		found[id] = true
 	}
 	return true
-}
-
-// within reports whether n is from least to most.
-func within(n, least, most int) bool {
-	return least <= n && n <= most
 }
 
 // isTarget reports whether usages of this kind can go to b: a number, or nothing at all for data and content.
