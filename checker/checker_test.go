@@ -240,7 +240,7 @@ func discountFaults() []fault {
 		for _, s := range notNames() {
 			add(0, api.ErrInvalid, func(d *api.Discount) { d.Name = s })
 		}
-		for _, e := range []api.Expr{{}, num(-1), text(strings.Repeat("a", 201)), name("colour"), deep(name("family"), 16), op(api.OpNot, num(1)), num(1), name("units"), text("a"), name("zone"), op(api.OpAdd, num(1), num(1))} {
+		for _, e := range []api.Expr{{}, num(-1), text(strings.Repeat("a", 201)), name("colour"), samples.Negations(name("family"), 16), op(api.OpNot, num(1)), num(1), name("units"), text("a"), name("zone"), op(api.OpAdd, num(1), num(1))} {
 			_, err := Expr(e)
 			if err == api.OK {
 				err = api.ErrKind
@@ -290,7 +290,7 @@ func TestTariffLimits(t *testing.T) {
 	var discounts []api.Discount
 	for i := range 64 {
 		zones = append(zones, api.Zone{Name: "z" + strconv.Itoa(i), Prefixes: []string{strconv.Itoa(100 + i)}})
-		discounts = append(discounts, api.Discount{Name: "d" + strconv.Itoa(i), When: deep(name("family"), 15), Points: 10000})
+		discounts = append(discounts, api.Discount{Name: "d" + strconv.Itoa(i), When: samples.Negations(name("family"), 15), Points: 10000})
 	}
 	rate := api.Rate{Kind: api.KindData, Zone: "z63", Band: "all", Setup: api.MaxAmount, Steps: ladder(64)}
 	last := api.Rate{Kind: api.KindText, Steps: []api.Step{step(0, api.MaxUnits, api.MaxAmount)}}

@@ -4,7 +4,6 @@ import (
 	"math"
 	"math/rand"
 	"reflect"
-	"slices"
 	"strings"
 	"testing"
 
@@ -169,14 +168,6 @@ func TestOperators(t *testing.T) {
 	}
 }
 
-// deep returns an expression in so many negations.
-func deep(e api.Expr, levels int) api.Expr {
-	for range levels {
-		e = op(api.OpNot, e)
-	}
-	return e
-}
-
 // P26.1: the levels, on the left and on the right, and what comes before and behind their error.
 func TestLevels(t *testing.T) {
 	family := name("family")
@@ -186,7 +177,7 @@ func TestLevels(t *testing.T) {
 		if level > 16 {
 			want = api.ErrDepth
 		}
-		if err := checkExpr(t, deep(family, level-1)); err != want {
+		if err := checkExpr(t, samples.Negations(family, level-1)); err != want {
 			t.Error("level", level, err)
 		}
 		if err := checkExpr(t, sum); err != want {
@@ -198,8 +189,8 @@ func TestLevels(t *testing.T) {
 		e   api.Expr
 		err api.Errno
 	}{
-		{deep(api.Expr{}, 16), api.ErrDepth}, {deep(num(-1), 16), api.ErrDepth}, {deep(name("colour"), 16), api.ErrDepth}, {deep(api.Expr{}, 15), api.ErrKind}, {deep(num(-1), 15), api.ErrRange}, {deep(name("colour"), 15), api.ErrNotFound}, {deep(num(1), 15), api.ErrKind}, {deep(op(api.OpNot, family, family), 15), api.ErrKind}, {deep(op(api.OpNot, family), 15), api.ErrDepth},
-		{op(api.OpAnd, deep(family, 15), num(-1)), api.ErrDepth}, {op(api.OpAnd, num(-1), deep(family, 15)), api.ErrRange}, {op(api.OpAnd, num(1), deep(family, 15)), api.ErrDepth}, {op(api.OpAnd, deep(family, 14), num(1)), api.ErrKind}, {op(0, deep(family, 20)), api.ErrKind}, {op(api.OpAnd, deep(family, 20)), api.ErrKind},
+		{samples.Negations(api.Expr{}, 16), api.ErrDepth}, {samples.Negations(num(-1), 16), api.ErrDepth}, {samples.Negations(name("colour"), 16), api.ErrDepth}, {samples.Negations(api.Expr{}, 15), api.ErrKind}, {samples.Negations(num(-1), 15), api.ErrRange}, {samples.Negations(name("colour"), 15), api.ErrNotFound}, {samples.Negations(num(1), 15), api.ErrKind}, {samples.Negations(op(api.OpNot, family, family), 15), api.ErrKind}, {samples.Negations(op(api.OpNot, family), 15), api.ErrDepth},
+		{op(api.OpAnd, samples.Negations(family, 15), num(-1)), api.ErrDepth}, {op(api.OpAnd, num(-1), samples.Negations(family, 15)), api.ErrRange}, {op(api.OpAnd, num(1), samples.Negations(family, 15)), api.ErrDepth}, {op(api.OpAnd, samples.Negations(family, 14), num(1)), api.ErrKind}, {op(0, samples.Negations(family, 20)), api.ErrKind}, {op(api.OpAnd, samples.Negations(family, 20)), api.ErrKind},
 		{op(api.OpAnd, op(api.OpAnd, num(1), num(1)), num(-1)), api.ErrKind}, {op(api.OpAnd, op(api.OpAnd, num(1), num(-1)), name("colour")), api.ErrRange}, {op(api.OpAdd, num(-1), name("colour")), api.ErrRange}, {op(api.OpAdd, name("colour"), num(-1)), api.ErrNotFound}, {op(api.OpAdd, name("zone"), name("colour")), api.ErrNotFound},
 	} {
 		if err := checkExpr(t, x.e); err != x.err {
@@ -210,7 +201,7 @@ func TestLevels(t *testing.T) {
 
 // P26.1: expressions that are very deep or contain themselves. R1.
 func TestVeryDeep(t *testing.T) {
-	if err := checkExpr(t, deep(name("family"), 60000)); err != api.ErrDepth {
+	if err := checkExpr(t, samples.Negations(name("family"), 60000)); err != api.ErrDepth {
 		t.Error(err)
 	}
 	one, two := make([]api.Expr, 1), make([]api.Expr, 2)
@@ -254,7 +245,7 @@ func TestExprsAgainstModel(t *testing.T) {
 			}
 			change(rnd, &e, other)
 		}
-		given := copied(e)
+		given := samples.CopyExpr(e)
 		found[checkExpr(t, e)]++
 		if !reflect.DeepEqual(e, given) {
 			t.Fatal("the argument has changed")
@@ -276,13 +267,4 @@ func checkOperands(t *testing.T, e api.Expr) {
 		}
 		checkOperands(t, x)
 	}
-}
-
-// copied returns an expression that shares no memory with another one.
-func copied(e api.Expr) api.Expr {
-	e.Args = slices.Clone(e.Args)
-	for i := range e.Args {
-		e.Args[i] = copied(e.Args[i])
-	}
-	return e
 }

@@ -31,3 +31,25 @@ func TestFilterMemory(t *testing.T) {
 		t.Error(list)
 	}
 }
+
+// Copied copies each element once, in their order, and leaves the list as it is.
+func TestCopied(t *testing.T) {
+	for _, list := range [][]int{nil, {}, {5}, {3, 1, 2, 1}} {
+		given := slices.Clone(list)
+		var asked, want []int
+		for _, n := range list {
+			want = append(want, 10*n)
+		}
+		got := Copied(given, func(n int) int {
+			asked = append(asked, n)
+			return 10 * n
+		})
+		if !slices.Equal(got, want) || !slices.Equal(asked, list) || (got == nil) != (list == nil) {
+			t.Error(list, got, asked)
+		}
+		clear(got[:cap(got)])
+		if !slices.Equal(given, list) {
+			t.Error("the list has changed:", given)
+		}
+	}
+}

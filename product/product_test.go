@@ -8,6 +8,7 @@ import (
 	"testing"
 
 	"billing/api"
+	"billing/samples"
 )
 
 // duplicate returns a list that is equal and shares no memory.
@@ -32,21 +33,11 @@ func overwrite(p api.Product) {
 	clear(p.Bundles[:cap(p.Bundles)])
 }
 
-// somewhere are names of products, and texts that are none, in ascending order.
-func somewhere() []string {
-	return []string{"", "A", "a", "a-1", "a1", "aa", "flat", "pack", "\xff"}
-}
-
-// someList returns a list that is ascending by Name and From, valid or not, with the Froms of instants that choose chooses.
-func someList(rnd *rand.Rand, choose func() int) []api.Product {
+// someList returns a list that is ascending by Name and From, valid or not, with Froms that one makes.
+func someList(rnd *rand.Rand, one func(choose func(n int) int) int) []api.Product {
 	var list []api.Product
-	for _, name := range somewhere() {
-		var times []int
-		for range rnd.Intn(6) - 1 {
-			times = append(times, choose())
-		}
-		slices.Sort(times)
-		for _, from := range slices.Compact(times) {
+	for _, name := range samples.VersionNames() {
+		for _, from := range samples.Times(rnd.Intn, one) {
 			p := base()
 			p.Name, p.From, p.Fee = name, from, rnd.Intn(3)-1
 			p.Bundles = p.Bundles[:rnd.Intn(3)]
@@ -57,20 +48,6 @@ func someList(rnd *rand.Rand, choose func() int) []api.Product {
 		}
 	}
 	return list
-}
-
-// anyInstant returns a function that chooses an instant, most of them small.
-func anyInstant(rnd *rand.Rand) func() int {
-	return func() int {
-		return []int{rnd.Intn(20), rnd.Intn(20), rnd.Intn(20), 0, api.Forever - 1, api.Forever - 2}[rnd.Intn(6)]
-	}
-}
-
-// anyInteger returns a function that chooses an integer, most of them small.
-func anyInteger(rnd *rand.Rand) func() int {
-	return func() int {
-		return []int{rnd.Intn(20), rnd.Intn(20), -1 - rnd.Intn(5), 0, api.Forever - 1, api.Forever, math.MinInt, math.MaxInt}[rnd.Intn(8)]
-	}
 }
 
 // version returns the position of the version of a product at t, or -1: the definition.
@@ -84,14 +61,13 @@ func version(list []api.Product, name string, t int) int {
 	return found
 }
 
-// moments returns the Froms of a list with their neighbours, and integers that are no instants.
+// moments returns the Froms of a list with their neighbours, and integers that are no instants, ascending.
 func moments(list []api.Product) []int {
-	times := []int{math.MinInt, -1, 0, api.Forever - 1, api.Forever, math.MaxInt}
+	var times []int
 	for _, p := range list {
-		times = append(times, p.From, max(p.From, math.MinInt+1)-1, min(p.From, math.MaxInt-1)+1)
+		times = append(times, p.From)
 	}
-	slices.Sort(times)
-	return slices.Compact(times)
+	return samples.Around(times)
 }
 
 // equal reports whether two products are equal. (No list and an empty one are.)
@@ -111,11 +87,11 @@ func TestVersions(t *testing.T) {
 	rnd := rand.New(rand.NewSource(190))
 	found, several := map[bool]int{}, 0
 	for range 1000 {
-		list := someList(rnd, anyInteger(rnd))
+		list := someList(rnd, samples.Integer)
 		given := duplicate(list)
 		for _, at := range moments(list) {
 			var names []string
-			for _, name := range append(somewhere(), "b", "flats") {
+			for _, name := range append(samples.VersionNames(), "b", "flats") {
 				p, has := At(given, name, at)
 				i := version(list, name, at)
 				if has != (i >= 0) || has && !equal(p, list[i]) || !has && !reflect.DeepEqual(p, api.Product{}) {
@@ -219,12 +195,12 @@ func TestFees(t *testing.T) {
 	rnd := rand.New(rand.NewSource(194))
 	long := map[int]int{} // how many results have so many elements
 	for range 20000 {
-		list := someList(rnd, anyInstant(rnd))
+		list := someList(rnd, samples.Instant)
 		given := duplicate(list)
-		name := append(somewhere(), "b")[rnd.Intn(10)]
-		p := api.Period{From: anyInstant(rnd)(), To: anyInstant(rnd)() + rnd.Intn(2)}
+		name := append(samples.VersionNames(), "b")[rnd.Intn(10)]
+		p := api.Period{From: samples.Instant(rnd.Intn), To: samples.Instant(rnd.Intn) + rnd.Intn(2)}
 		if rnd.Intn(10) == 0 {
-			p = api.Period{From: anyInteger(rnd)(), To: anyInteger(rnd)()}
+			p = api.Period{From: samples.Integer(rnd.Intn), To: samples.Integer(rnd.Intn)}
 		}
 		fees, want := Fees(given, name, p), modelFees(list, name, p)
 		if !slices.Equal(fees, want) {
@@ -287,14 +263,14 @@ func TestFeesExamples(t *testing.T) {
 func TestAnything(t *testing.T) {
 	rnd := rand.New(rand.NewSource(191))
 	for range 5000 {
-		list := someList(rnd, anyInteger(rnd))
+		list := someList(rnd, samples.Integer)
 		rnd.Shuffle(len(list), func(i, j int) { list[i], list[j] = list[j], list[i] })
 		Check(list)
-		for _, name := range somewhere() {
-			n := anyInteger(rnd)()
+		for _, name := range samples.VersionNames() {
+			n := samples.Integer(rnd.Intn)
 			At(list, name, n)
 			Names(list, n)
-			Fees(list, name, api.Period{From: n, To: anyInteger(rnd)()})
+			Fees(list, name, api.Period{From: n, To: samples.Integer(rnd.Intn)})
 			Fees(list, name, api.Period{From: 0, To: api.Forever})
 		}
 	}

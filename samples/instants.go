@@ -1,7 +1,6 @@
 package samples
 
 import (
-	"math"
 	"slices"
 
 	"billing/api"
@@ -19,10 +18,5 @@ func Limits(list []api.Event) []int {
 
 // Moments returns the limits of a list with their neighbours, and integers that are no instants, ascending.
 func Moments(list []api.Event) []int {
-	times := []int{math.MinInt, -1, api.Forever - 2, api.Forever - 1, api.Forever, math.MaxInt}
-	for _, n := range Limits(list) {
-		times = append(times, n-1, n, n+1)
-	}
-	slices.Sort(times)
-	return slices.Compact(times)
+	return Around(Limits(list))
 }

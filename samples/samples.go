@@ -1,4 +1,4 @@
-// Package samples makes usage records, customer events and tariffs for the tests of the layers that handle them; the program itself does not call it.
+// Package samples makes usage records, customer events, tariffs, expressions and instants for the tests of the layers that handle them; the program itself does not call it.
 package samples
 
 import "billing/api"
